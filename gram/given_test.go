@@ -14,7 +14,10 @@ import (
 
 // What the tests of this package begin with, each made anew.
 
-const most = 1<<63 - 1
+const (
+	most   = 1<<63 - 1
+	lowest = -1 << 63
+)
 
 func variable(mon, name string) api.Expr {
 	return api.Expr{Op: api.OpVar, Mon: mon, Name: name}
@@ -236,8 +239,10 @@ func (w *writer) done() []api.Token {
 	return slices.Clip(w.tokens)
 }
 
+// whole writes an int as it stands in texts, or, at times, the other way round: its token has the sign.
 func (w *writer) whole(n int64) {
-	if n < 0 || n == 0 && w.IntN(2) == 0 {
+	minus := n < 0 || n == 0 && w.IntN(2) == 0
+	if minus != (w.IntN(4) == 0) {
 		w.signs("-")
 		n = -n
 	}

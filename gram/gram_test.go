@@ -199,24 +199,95 @@ func TestWhatCounts(t *testing.T) {
 	}
 }
 
-// TestNumbersBelow: P5.1 and P5.2: no num is below 0, though a token may have such an N.
-func TestNumbersBelow(t *testing.T) {
-	l := scan(t, "monitor m { var x : -1..1 = -1; }")
-	p := declaring(api.Var{Name: "x", Type: api.TyRange, Lo: -1, Hi: 1, Init: -1})
-	if !gram.Derives(l, p) {
-		t.Error("the range")
+// ints are all ways of writing an int: with a - ahead of the number or without.
+func ints(n int64) [][]api.Token {
+	num := api.Token{Kind: api.TkNum, N: n}
+	return [][]api.Token{{num}, {{Kind: api.TkSign, Text: "-"}, num}}
+}
+
+// comesTo tells whether a number, with a - ahead of it or without, is n, as whole numbers are: of -2^63 there is no other sign.
+func comesTo(n, token int64, minus bool) bool {
+	if minus {
+		return token != lowest && n == -token
 	}
-	for i, token := range l {
-		if token.Text == "-" {
-			below := slices.Delete(slices.Clone(l), i, i+1)
-			below[i].N = -below[i].N
-			if gram.Derives(below, p) {
-				t.Errorf("%+v", below)
+	return n == token
+}
+
+// TestInts: P5.2: a num is what its token's N is, below 0 too, and an int is that, or with a - ahead of it the number with the other sign.
+func TestInts(t *testing.T) {
+	head, tail := scan(t, "monitor m { var x : int ="), scan(t, "; }")
+	head = head[:len(head)-1]
+	numbers := []int64{lowest, -most, 1 - most, -5, -1, 0, 1, 5, most - 1, most}
+	for _, n := range numbers {
+		for _, token := range numbers {
+			for i, written := range ints(token) {
+				want := n != lowest && comesTo(n, token, i == 1)
+				l := slices.Concat(head, written, tail)
+				if gram.Derives(l, declaring(api.Var{Name: "x", Type: api.TyInt, Init: n})) != want {
+					t.Errorf("%+v, Init %d: not %v", written, n, want)
+				}
+				l = slices.Concat(head, ints(0)[1][:1], written, tail)
+				if i == 1 && gram.Derives(l, declaring(api.Var{Name: "x", Type: api.TyInt, Init: n})) {
+					t.Errorf("two signs: %+v, Init %d", l, n)
+				}
 			}
 		}
 	}
-	if gram.DerivesExpr([]api.Token{{Kind: api.TkNum, N: -1}, {Kind: api.TkEnd}}, number(-1)) {
-		t.Error("a number below 0")
+}
+
+// TestRangeInts: P5.2: likewise of the three ints of a range, of which the second one is not below the first one.
+func TestRangeInts(t *testing.T) {
+	head, dots, equals, tail := scan(t, "monitor m { var x :"), scan(t, ".."), scan(t, "="), scan(t, "; }")
+	head, dots, equals = head[:len(head)-1], dots[:1], equals[:1]
+	numbers := []int64{lowest, -2, 0, 1}
+	for _, lo := range numbers {
+		for _, hi := range numbers {
+			for _, init := range numbers {
+				for form := range 8 {
+					l := slices.Concat(head, ints(lo)[form&1], dots, ints(hi)[form>>1&1], equals, ints(init)[form>>2], tail)
+					for _, v := range []api.Var{{Lo: -2, Hi: 1, Init: 2}, {Lo: -1, Hi: 2}, {Lo: 0, Hi: 0, Init: -2}, {Lo: 1, Hi: -2, Init: 1}, {Lo: lowest, Hi: 1, Init: 1}} {
+						v.Name, v.Type = "x", api.TyRange
+						want := v.Lo != lowest && v.Lo <= v.Hi && comesTo(v.Lo, lo, form&1 == 1) && comesTo(v.Hi, hi, form>>1&1 == 1) && comesTo(v.Init, init, form>>2 == 1)
+						if gram.Derives(l, declaring(v)) != want {
+							t.Errorf("%+v, %+v: not %v", l, v, want)
+						}
+					}
+				}
+			}
+		}
+	}
+}
+
+// TestNumbersBelow: P5.1 and P5.2: where no int stands, a num below 0 derives nothing: tree.Check takes no tree that has it.
+func TestNumbersBelow(t *testing.T) {
+	end := api.Token{Kind: api.TkEnd}
+	for _, n := range []int64{-1, -5, -most, lowest} {
+		below := api.Token{Kind: api.TkNum, N: n}
+		minus, star := api.Token{Kind: api.TkSign, Text: "-"}, api.Token{Kind: api.TkSign, Text: "*"}
+		for _, l := range [][]api.Token{{below, end}, {minus, below, end}, {below, star, below, end}} {
+			for _, e := range []api.Expr{number(n), number(-n), of(api.OpNeg, number(n)), of(api.OpNeg, number(-n)), times(n, number(n)), times(-n, number(-n))} {
+				if gram.DerivesExpr(l, e) {
+					t.Errorf("%+v derive %+v", l, e)
+				}
+			}
+		}
+		for _, s := range []string{"thread r 7 { }", "thread r * { wait m 7; }", "thread r * { m.x = 7; }", "thread r * { m.x = 7 * m.x; }"} {
+			l := scan(t, s)
+			at := slices.IndexFunc(l, func(token api.Token) bool { return token.Kind == api.TkNum })
+			l[at] = below
+			for _, other := range []int64{n, -n, 0} {
+				set := func(e api.Expr) api.Program { return role(api.Stmt{Kind: api.StSet, Mon: "m", Name: "x", E: e}) }
+				for _, p := range []api.Program{
+					{Roles: []api.Role{{Name: "r", Count: other}}}, {Roles: []api.Role{{Name: "r", Star: true}}},
+					role(api.Stmt{Kind: api.StWait, Mon: "m", N: other}),
+					set(number(other)), set(of(api.OpNeg, number(other))), set(times(other, variable("m", "x"))),
+				} {
+					if gram.Derives(l, p) {
+						t.Errorf("%q with %d derives %+v", s, n, p)
+					}
+				}
+			}
+		}
 	}
 }
 

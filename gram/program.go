@@ -64,14 +64,7 @@ func (t *tape) truth(n int64) part {
 	return t.word("true")
 }
 
-// int is a number with a - ahead of it, if it is below 0; 0 is there with one or without.
+// int is its number, or a - and the number with the other sign: a token's N may itself be below 0, though Scan tells no such one. (No tree has -2^63, whose other sign would be beyond 64 bits.)
 func (t *tape) int(n int64) part {
-	negative := row(t.sign("-"), t.num(-n))
-	switch {
-	case n > 0:
-		return t.num(n)
-	case n < 0:
-		return negative
-	}
-	return either(t.num(0), negative)
+	return either(t.num(n), row(t.sign("-"), t.num(-n)))
 }
