@@ -8,6 +8,7 @@ import (
 	"vigil/api"
 	"vigil/flow"
 	"vigil/held"
+	"vigil/sample"
 	"vigil/step"
 	"vigil/world"
 )
@@ -54,7 +55,7 @@ func wantOwners(t testing.TB, what string, x api.System, w api.World, at [][][]i
 			if w.Locks[mon].Owner == i {
 				owns = w.Locks[mon].Depth
 			}
-			if waits := thread.State == api.ThWait || thread.State == api.ThWoken; waits && firstEdge(x.Flows[thread.Role], thread.Loc).Mon == mon {
+			if waits := thread.State == api.ThWait || thread.State == api.ThWoken; waits && (&rules{x: x, w: w}).leads(i)[0].Mon == mon {
 				if owns > 0 || thread.Depth != n {
 					t.Errorf("%s: %s: thread %d owns %d %d times, and did %d times", what, world.Text(w), i, mon, owns, thread.Depth)
 				}
@@ -93,19 +94,19 @@ func wantOthers(t testing.TB, what string, x api.System, w, next api.World, p ap
 func TestWalks(t *testing.T) {
 	var seen, ruled tally
 	for seed := range uint64(1500) {
-		c := newChance(seed, 155)
-		x, text := c.system(t)
+		d := drawn(seed, 155)
+		x, text := d.System()
 		at, what := heldOf(t, x), fmt.Sprint("seed ", seed, ": ", text)
-		w := c.begin(t, x)
+		w := d.First(x)
 		for i := range 120 {
 			if wantOwners(t, what, x, w, at); i%50 == 49 {
 				wantRules(t, what, x, w, &ruled)
 			}
 			all := everything(x, w)
-			if runs := len(step.Picks(x, w)); runs > 0 && c.IntN(4) > 0 {
+			if runs := len(step.Picks(x, w)); runs > 0 && d(4) > 0 {
 				all = all[:runs]
 			}
-			p := one(c, all...)
+			p := sample.One(d, all...)
 			next, took, err := step.Do(x, w, p)
 			if err != api.OK || world.Check(x, next) != api.OK {
 				t.Fatalf("%s: %s, %+v: error %d, %+v", what, world.Text(w), p, err, next)

@@ -2,6 +2,7 @@ package step_test
 
 import (
 	"fmt"
+	"math/rand/v2"
 	"reflect"
 	"slices"
 	"strings"
@@ -9,11 +10,15 @@ import (
 
 	"vigil/api"
 	"vigil/parse"
+	"vigil/sample"
 	"vigil/step"
 	"vigil/world"
 )
 
 // What the tests of this package begin with, each made anew.
+
+// drawn makes programs and worlds by a rule that is the same each time.
+func drawn(seed, kind uint64) sample.Draw { return rand.New(rand.NewPCG(seed, kind)).IntN }
 
 // systemOf is a text's system.
 func systemOf(t testing.TB, s string) api.System {

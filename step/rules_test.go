@@ -302,12 +302,12 @@ func wantRules(t *testing.T, what string, x api.System, w api.World, seen *tally
 func TestRules(t *testing.T) {
 	var seen tally
 	for seed := range uint64(1600) {
-		c := newChance(seed, 15)
-		x, text := c.system(t)
+		d := drawn(seed, 15)
+		x, text := d.System()
 		for i := range 6 {
-			w := c.begin(t, x)
+			w := d.First(x)
 			if i > 0 {
-				w = c.world(t, x)
+				w = d.World(x)
 			}
 			if wantRules(t, fmt.Sprint("seed ", seed, ": ", text), x, w, &seen); t.Failed() {
 				return
